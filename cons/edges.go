@@ -83,40 +83,14 @@ func tidy(l []Edge) []Edge {
 
 // follow joins the nodes that a rule joins, when nodes have these objects.
 func follow(p api.Program, r Rule, has [][]int, join func(from, to int)) {
-	nodes := len(has)
-	switch r.Kind {
-	case KindCopy:
+	if r.Kind == KindCopy {
 		join(r.A, r.B)
-	case KindLoad:
-		pointed, _ := part(has[r.A], nodes)
-		for _, o := range pointed {
-			join(o, r.B)
-		}
-	case KindStore:
-		pointed, _ := part(has[r.B], nodes)
-		for _, o := range pointed {
-			join(r.A, o)
-		}
-	case KindCall:
-		_, called := part(has[r.A], nodes)
-		for _, o := range called {
-			enter(p.Funs[o-nodes], r, join)
-		}
 	}
-}
-
-// part takes a set apart: functions are numbered behind all nodes, so they are its end.
-func part(l []int, nodes int) (pointed, called []int) {
-	first, _ := slices.BinarySearch(l, nodes)
-	return l[:first], l[first:]
-}
-
-func enter(f api.Fun, r Rule, join func(from, to int)) {
-	if len(f.Params) != len(r.Args) {
+	asked := r.Asked()
+	if asked < 0 {
 		return
 	}
-	for i, param := range f.Params {
-		join(r.Args[i], param)
+	for _, o := range has[asked] {
+		r.Join(len(has), p.Funs, o, join)
 	}
-	join(f.Ret, r.B)
 }
